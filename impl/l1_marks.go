@@ -40,7 +40,7 @@ func TextValid(s string) bool {
 
 // MarkText returns the digits of a number in 0..Great in the base 36, with a to z for 10 to 35; "" for other numbers.
 func MarkText(n int) string {
-	if n < 0 || n > Great {
+	if !isNumber(n) {
 		return ""
 	}
 	text := markDigit(n % markBase)
@@ -65,6 +65,10 @@ func ReadMark(s string) int {
 		n = n*markBase + digit
 	}
 	return n
+}
+
+func isNumber(n int) bool {
+	return n >= 0 && n <= Great
 }
 
 func isDigit(b byte) bool {
