@@ -56,24 +56,28 @@ func markIn(s string) int {
 	return n
 }
 
-// wordsIn cuts a text at all of its spaces, from the end on.
-func wordsIn(s string) []string {
-	from := lastPlaceOf(s, ' ') + 1
+// partsIn cuts a text at all bytes of one kind, from the end on.
+func partsIn(s string, between byte) []string {
+	from := lastPlaceOf(s, between) + 1
 	if from == 0 {
 		return []string{s}
 	}
-	return append(wordsIn(s[:from-1]), s[from:])
+	return append(partsIn(s[:from-1], between), s[from:])
+}
+
+func joinedBy(parts []string, between string) string {
+	text := ""
+	for k, part := range parts {
+		if k > 0 {
+			text += between
+		}
+		text += part
+	}
+	return text
 }
 
 func spaced(words []string) string {
-	text := ""
-	for k, word := range words {
-		if k > 0 {
-			text += " "
-		}
-		text += word
-	}
-	return text
+	return joinedBy(words, " ")
 }
 
 // activityIn counts the words first, so that it does not share its way of reading with ReadActivity.
@@ -81,7 +85,7 @@ func activityIn(s string) (impl.Activity, bool) {
 	if len(s) > longestActivity {
 		return impl.Activity{}, false
 	}
-	words := wordsIn(s)
+	words := partsIn(s, ' ')
 	if len(words) != 4 {
 		return impl.Activity{}, false
 	}
