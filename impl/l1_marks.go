@@ -31,7 +31,7 @@ func TextValid(s string) bool {
 		return false
 	}
 	for k := 0; k < len(s); k++ {
-		if s[k] < 32 || s[k] > 126 {
+		if !isTextByte(int(s[k])) {
 			return false
 		}
 	}
@@ -69,6 +69,11 @@ func ReadMark(s string) int {
 
 func isNumber(n int) bool {
 	return n >= 0 && n <= Great
+}
+
+// isTextByte takes any number, as not only bytes are asked about.
+func isTextByte(b int) bool {
+	return b >= 32 && b <= 126
 }
 
 func isDigit(b byte) bool {
